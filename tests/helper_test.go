@@ -1,6 +1,7 @@
 package tests
 
 import (
+	"math/rand"
 	"slices"
 	"strings"
 	"testing"
@@ -68,4 +69,34 @@ func everyList[T any](pool []T, size int, use func([]T)) {
 		}
 	}
 	grow(nil)
+}
+
+// everyOrder calls use with the elements in each order.
+func everyOrder[T any](list []T, use func([]T)) {
+	list = slices.Clone(list)
+	var fix func(at int)
+	fix = func(at int) {
+		if at == len(list) {
+			use(slices.Clone(list))
+			return
+		}
+		for i := at; i < len(list); i++ {
+			list[at], list[i] = list[i], list[at]
+			fix(at + 1)
+			list[at], list[i] = list[i], list[at]
+		}
+	}
+	fix(0)
+}
+
+// mixed hands the operations out in another order, some of them twice.
+func mixed[T any](random *rand.Rand, ops []T) []T {
+	list := slices.Clone(ops)
+	for range random.Intn(3) {
+		if len(ops) > 0 {
+			list = append(list, ops[random.Intn(len(ops))])
+		}
+	}
+	random.Shuffle(len(list), func(i, j int) { list[i], list[j] = list[j], list[i] })
+	return list
 }

@@ -255,33 +255,3 @@ func anyList(random *rand.Rand, size int) []impl.LOp {
 	}
 	return mixed(random, ops)
 }
-
-// mixed hands the operations out in another order, some of them twice.
-func mixed(random *rand.Rand, ops []impl.LOp) []impl.LOp {
-	list := slices.Clone(ops)
-	for range random.Intn(3) {
-		if len(ops) > 0 {
-			list = append(list, ops[random.Intn(len(ops))])
-		}
-	}
-	random.Shuffle(len(list), func(i, j int) { list[i], list[j] = list[j], list[i] })
-	return list
-}
-
-// everyOrder calls use with the elements in each order.
-func everyOrder[T any](list []T, use func([]T)) {
-	list = slices.Clone(list)
-	var fix func(at int)
-	fix = func(at int) {
-		if at == len(list) {
-			use(slices.Clone(list))
-			return
-		}
-		for i := at; i < len(list); i++ {
-			list[at], list[i] = list[i], list[at]
-			fix(at + 1)
-			list[at], list[i] = list[i], list[at]
-		}
-	}
-	fix(0)
-}

@@ -299,19 +299,7 @@ func anyMoves(random *rand.Rand, nodes, size int) []impl.MoveOp {
 		name := names()[random.Intn(len(names()))]
 		ops = append(ops, impl.MoveOp{Id: id, Node: 1 + random.Intn(nodes), Parent: random.Intn(nodes+2) - 1, Name: name})
 	}
-	return mixedMoves(random, ops)
-}
-
-// mixedMoves hands the moves out in another order, some of them twice.
-func mixedMoves(random *rand.Rand, ops []impl.MoveOp) []impl.MoveOp {
-	list := slices.Clone(ops)
-	for range random.Intn(3) {
-		if len(ops) > 0 {
-			list = append(list, ops[random.Intn(len(ops))])
-		}
-	}
-	random.Shuffle(len(list), func(i, j int) { list[i], list[j] = list[j], list[i] })
-	return list
+	return mixed(random, ops)
 }
 
 // chain gives moves by which each of n nodes lies under the one of the number below, the first one under the root.

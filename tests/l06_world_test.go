@@ -63,7 +63,7 @@ func TestP8MoversInAWorld(t *testing.T) {
 				m.hears(movers[i])
 			}
 			checkTreeOf(t, "heard all", m.ops, f, skipped...)
-			checkTree(t, mixedMoves(random, m.ops))
+			checkTree(t, mixed(random, m.ops))
 		}
 	}
 	if together < 40 {
