@@ -63,10 +63,6 @@ func (r *reader) take(n int) []byte {
 	return r.bytes[r.at-n : r.at]
 }
 
-func (r *reader) end() {
-	r.require(r.at == len(r.bytes))
-}
-
 func (r *reader) number() int {
 	v := 0
 	for shift := 0; shift < numberBits; shift += 7 {
@@ -90,6 +86,15 @@ func attempt[T any](r *reader, read func(*reader) T) (value T, code int) {
 		}
 	}()
 	return read(r), OK
+}
+
+// attemptAll reads one thing that is all of the bytes.
+func attemptAll[T any](b []byte, read func(*reader) T) (T, int) {
+	return attempt(&reader{bytes: b}, func(r *reader) T {
+		value := read(r)
+		r.require(r.at == len(b))
+		return value
+	})
 }
 
 // faultCode takes any other panic for bad bytes as well, because no call may panic whatever it is given.
@@ -171,7 +176,7 @@ func GetTexts(b []byte) ([]string, int) {
 	if len(b) > MaxBytes {
 		return nil, ErrLong
 	}
-	return attempt(&reader{bytes: b}, (*reader).texts)
+	return attemptAll(b, (*reader).texts)
 }
 
 // texts asks for all that PutTexts refuses, too: what it does not write has no bytes.
@@ -185,7 +190,6 @@ func (r *reader) texts() []string {
 		room -= len(ahead)
 		list = append(list, ahead)
 	}
-	r.end()
 	return list
 }
 
@@ -264,7 +268,7 @@ func GetRuns(b []byte) ([]int, int) {
 	if len(b) > MaxBytes {
 		return nil, ErrLong
 	}
-	return attempt(&reader{bytes: b}, (*reader).runs)
+	return attemptAll(b, (*reader).runs)
 }
 
 func (r *reader) runs() []int {
@@ -275,7 +279,6 @@ func (r *reader) runs() []int {
 	for len(list) < count {
 		list, step = r.run(list, step, count-len(list))
 	}
-	r.end()
 	return list
 }
 
