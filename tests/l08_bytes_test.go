@@ -432,7 +432,7 @@ func TestP2LogsNotValid(t *testing.T) {
 	}
 }
 
-// greatLog has the longest texts and the most bytes that were found.
+// greatLog has as many operations as there can be, each with the longest texts, which share no beginning with their neighbours.
 func greatLog() []impl.Op {
 	random := rand.New(rand.NewSource(83))
 	var log []impl.Op
