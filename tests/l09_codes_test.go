@@ -20,11 +20,11 @@ func checkNothing(t *testing.T, what string, log []impl.Op, v impl.Vector, want 
 	zeroWithCode(t, list, code)
 }
 
-// A log that is not valid goes ahead of all else, also of a list that is wrong and of a time that is none.
-func TestP11WrongLogs(t *testing.T) {
+// wrongLogs are logs that are not valid, each by what is wrong with it.
+func wrongLogs() map[string][]impl.Op {
 	s := inOrder(story())
 	loose := diary(3, 9, takes(3, stamp(1, 7)))
-	for what, log := range map[string][]impl.Op{
+	return map[string][]impl.Op{
 		"the first is missing": s[1:], "no operation": {{}}, "turned over": {s[1], s[0]}, "a gap": {s[0], s[2]}, "one twice": {s[0], s[0]},
 		"a cause is missing": s[3:], "unlike things": logOf(s, diary(3, 9, counts(1, 1))), "an Obj of 0": logWith(s, 0, func(op *impl.Op) { op.Obj = 0 }),
 		"an Obj of 101": logWith(s, 6, func(op *impl.Op) { op.Obj = 101 }), "an Undo of itself": logWith(s, 2, func(op *impl.Op) { op.Undo = 3 }),
@@ -32,7 +32,12 @@ func TestP11WrongLogs(t *testing.T) {
 		"a Key that is too long": diary(3, 9, writes(1, letters(201), "")), "one too many": fullLog(impl.MaxLog + 1), "very many": make([]impl.Op, 1<<20),
 		"a stamp that does not rise": logWith(s, 1, func(op *impl.Op) { op.Time = 1 }), "a wrong list, and the first is missing": logOf(s[1:], loose),
 		"a wrong list, and one of Kind 5": logWith(logOf(s, loose), 0, func(op *impl.Op) { op.Kind = 5 }),
-	} {
+	}
+}
+
+// A log that is not valid goes ahead of all else, also of a list that is wrong and of a time that is none.
+func TestP11WrongLogs(t *testing.T) {
+	for what, log := range wrongLogs() {
 		for _, v := range []impl.Vector{vector(), vector(1), vector(2, 2), vector(0, 1), fullVector(9), {}, vectorOf(3, -1)} {
 			checkNothing(t, what, log, v, impl.ErrBad)
 		}

@@ -130,14 +130,19 @@ func TestP1AnyDocuments(t *testing.T) {
 	}
 }
 
-// The longest that there are come to an end soon.
-func TestP1LongestDocuments(t *testing.T) {
-	// Each undoes the one ahead, so that whether the first one counts hangs on all of them.
+// onAndOn is a setting and as many undoings as a log has room for. Each undoes the one ahead, so that whether the first
+// one counts hangs on all of them.
+func onAndOn() []impl.Op {
 	deeds := []impl.Op{writes(1, "k", "v")}
 	for seq := 2; seq <= impl.MaxLog; seq++ {
 		deeds = append(deeds, undoes(seq-1, writes(1, "k", "")))
 	}
-	log := diary(15, 1, deeds...)
+	return deeds
+}
+
+// The longest that there are come to an end soon.
+func TestP1LongestDocuments(t *testing.T) {
+	log := diary(15, 1, onAndOn()...)
 	checkText9(t, "undone on and on", log, "map 1\n")
 	for _, n := range []int{1, 2, 3, impl.MaxLog - 2, impl.MaxLog - 1, impl.MaxLog} {
 		want := "map 1\n"

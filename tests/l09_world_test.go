@@ -123,16 +123,24 @@ func mergedLog(t *testing.T, log, more []impl.Op) []impl.Op {
 	return both
 }
 
+// archivists are some that know nothing yet.
+func archivists(t *testing.T) []*archivist {
+	t.Helper()
+	var all []*archivist
+	for i := range replicas {
+		a := &archivist{actor: actor(i)}
+		a.keeps(t)
+		all = append(all, a)
+	}
+	return all
+}
+
 // Archivists that hear each other in any order have the same document in the end, and all that one of them was told
 // stays true with what comes later, also with the others.
 func TestP11ArchivistsInAWorld(t *testing.T) {
 	for seed := range 40 {
 		random := rand.New(rand.NewSource(int64(seed)))
-		var all [replicas]*archivist
-		for i := range replicas {
-			all[i] = &archivist{actor: actor(i)}
-			all[i].keeps(t)
-		}
+		all := archivists(t)
 		for range 50 {
 			a, other := all[random.Intn(replicas)], all[random.Intn(replicas)]
 			if random.Intn(4) > 0 {
