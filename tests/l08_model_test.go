@@ -66,8 +66,9 @@ func sameDeed(a, b impl.Op) bool { return reflect.DeepEqual(a, b) }
 
 func sameLog(a, b []impl.Op) bool { return slices.EqualFunc(a, b, sameDeed) }
 
+// hasDeed asks for the name first, because holding all against all takes long.
 func hasDeed(log []impl.Op, op impl.Op) bool {
-	return slices.ContainsFunc(log, func(other impl.Op) bool { return sameDeed(other, op) })
+	return slices.ContainsFunc(log, func(other impl.Op) bool { return other.Actor == op.Actor && other.Seq == op.Seq && sameDeed(other, op) })
 }
 
 // story is a log of three actors in which every kind is done, by the order in which it was done.
