@@ -183,14 +183,12 @@ func TestP14TextsInBytes(t *testing.T) {
 	}
 }
 
-// Operations that are not valid by themselves, by each field.
-func TestP14WrongOperations(t *testing.T) {
+// wrongDeeds are operations that are not valid by themselves, by each field.
+func wrongDeeds() map[string]impl.Op {
 	far := []int{math.MinInt, -1, math.MaxInt}
+	list := map[string]impl.Op{"nothing": {}, "nothing said": by(0, 1, 1)}
 	for kind, op := range eachKind() {
-		wrong := func(what string, change func(op *impl.Op)) {
-			t.Helper()
-			checkNoDeedBytes(t, kind+", "+what, opWith(op, change))
-		}
+		wrong := func(what string, change func(op *impl.Op)) { list[kind+", "+what] = opWith(op, change) }
 		for _, actor := range append(far, 16, 1<<32) {
 			wrong(fmt.Sprint("Actor ", actor), func(op *impl.Op) { op.Actor = actor })
 		}
@@ -231,14 +229,19 @@ func TestP14WrongOperations(t *testing.T) {
 		wrong("a Text that is too long", func(op *impl.Op) { op.Text = letters(201) })
 		wrong("a Key and a Text that are very long", func(op *impl.Op) { op.Key, op.Text = letters(1<<21), letters(1<<21) })
 	}
-	checkNoDeedBytes(t, "nothing", impl.Op{})
-	checkNoDeedBytes(t, "nothing said", by(0, 1, 1))
-	checkNoDeedBytes(t, "a Key of a counter", opWith(eachKind()["OAdd"], func(op *impl.Op) { op.Key = "k" }))
-	checkNoDeedBytes(t, "a Text of a list", opWith(eachKind()["OIns"], func(op *impl.Op) { op.Text = "t" }))
-	checkNoDeedBytes(t, "an N of a map", opWith(eachKind()["OSet"], func(op *impl.Op) { op.N = 1 }))
-	checkNoDeedBytes(t, "an At of a counter", opWith(eachKind()["OAdd"], func(op *impl.Op) { op.At = stamp(1, 1) }))
-	checkNoDeedBytes(t, "no At", opWith(eachKind()["ODel"], func(op *impl.Op) { op.At = start() }))
-	checkNoDeedBytes(t, "no character", opWith(eachKind()["OIns"], func(op *impl.Op) { op.N = 55296 }))
+	list["a Key of a counter"] = opWith(eachKind()["OAdd"], func(op *impl.Op) { op.Key = "k" })
+	list["a Text of a list"] = opWith(eachKind()["OIns"], func(op *impl.Op) { op.Text = "t" })
+	list["an N of a map"] = opWith(eachKind()["OSet"], func(op *impl.Op) { op.N = 1 })
+	list["an At of a counter"] = opWith(eachKind()["OAdd"], func(op *impl.Op) { op.At = stamp(1, 1) })
+	list["no At"] = opWith(eachKind()["ODel"], func(op *impl.Op) { op.At = start() })
+	list["no character"] = opWith(eachKind()["OIns"], func(op *impl.Op) { op.N = 55296 })
+	return list
+}
+
+func TestP14WrongOperations(t *testing.T) {
+	for what, op := range wrongDeeds() {
+		checkNoDeedBytes(t, what, op)
+	}
 	// It need not be one of a log.
 	checkDeedBytes(t, "causes that are nowhere", opAdd(by(15, impl.MaxTime, impl.MaxTime, impl.MaxTime), 100, impl.MaxTime))
 	checkDeedBytes(t, "an At that nobody put", opDel(by(15, 1, impl.MaxTime), 100, stamp(impl.MaxTime, 14)))
